@@ -1,0 +1,22 @@
+// Package ways holds the program against the section 'Ways' of the document.
+package ways_test
+
+import (
+	"strings"
+	"testing"
+)
+
+// TestWays asks of each layer that has landed for the ways that it leans on.
+func TestWays(t *testing.T) {
+	for _, c := range [][2]string{
+		{"line", "range-string"},
+	} {
+		missing, err := WaysMissing("..", "deemster", []string{c[0]}, strings.Fields(c[1]))
+		if err != nil {
+			t.Fatal(err)
+		}
+		for _, way := range missing {
+			t.Errorf("%s: %s is missing", c[0], way)
+		}
+	}
+}
