@@ -10,6 +10,7 @@ import (
 func TestWays(t *testing.T) {
 	for _, c := range [][2]string{
 		{"line", "range-string"},
+		{"name", "range-string rune"},
 	} {
 		missing, err := WaysMissing("..", "deemster", []string{c[0]}, strings.Fields(c[1]))
 		if err != nil {
