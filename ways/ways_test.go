@@ -11,6 +11,7 @@ func TestWays(t *testing.T) {
 	for _, c := range [][2]string{
 		{"line", "range-string"},
 		{"name", "range-string rune"},
+		{"digit", "array"},
 	} {
 		missing, err := WaysMissing("..", "deemster", []string{c[0]}, strings.Fields(c[1]))
 		if err != nil {
