@@ -12,6 +12,7 @@ func TestWays(t *testing.T) {
 		{"line", "range-string"},
 		{"name", "range-string rune"},
 		{"digit", "array"},
+		{"cell", "assertion type-switch"},
 	} {
 		missing, err := WaysMissing("..", "deemster", []string{c[0]}, strings.Fields(c[1]))
 		if err != nil {
