@@ -13,6 +13,7 @@ func TestWays(t *testing.T) {
 		{"name", "range-string rune"},
 		{"digit", "array"},
 		{"cell", "assertion type-switch"},
+		{"value", "variadic"},
 	} {
 		missing, err := WaysMissing("..", "deemster", []string{c[0]}, strings.Fields(c[1]))
 		if err != nil {
