@@ -14,6 +14,7 @@ func TestWays(t *testing.T) {
 		{"digit", "array"},
 		{"cell", "assertion type-switch"},
 		{"value", "variadic"},
+		{"split", "range-string"},
 	} {
 		missing, err := WaysMissing("..", "deemster", []string{c[0]}, strings.Fields(c[1]))
 		if err != nil {
