@@ -15,6 +15,7 @@ func TestWays(t *testing.T) {
 		{"cell", "assertion type-switch"},
 		{"value", "variadic"},
 		{"split", "range-string"},
+		{"event", "constant-table"},
 	} {
 		missing, err := WaysMissing("..", "deemster", []string{c[0]}, strings.Fields(c[1]))
 		if err != nil {
