@@ -16,6 +16,7 @@ func TestWays(t *testing.T) {
 		{"value", "variadic"},
 		{"split", "range-string"},
 		{"event", "constant-table"},
+		{"log", "closure"},
 	} {
 		missing, err := WaysMissing("..", "deemster", []string{c[0]}, strings.Fields(c[1]))
 		if err != nil {
