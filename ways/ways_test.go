@@ -17,6 +17,7 @@ func TestWays(t *testing.T) {
 		{"split", "range-string"},
 		{"event", "constant-table"},
 		{"log", "closure"},
+		{"table", "variadic"},
 	} {
 		missing, err := WaysMissing("..", "deemster", []string{c[0]}, strings.Fields(c[1]))
 		if err != nil {
