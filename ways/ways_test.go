@@ -18,6 +18,7 @@ func TestWays(t *testing.T) {
 		{"event", "constant-table"},
 		{"log", "closure"},
 		{"table", "variadic"},
+		{"pair", "map delete"},
 	} {
 		missing, err := WaysMissing("..", "deemster", []string{c[0]}, strings.Fields(c[1]))
 		if err != nil {
