@@ -19,6 +19,7 @@ func TestWays(t *testing.T) {
 		{"log", "closure"},
 		{"table", "variadic"},
 		{"pair", "map delete"},
+		{"hist", "range-function"},
 	} {
 		missing, err := WaysMissing("..", "deemster", []string{c[0]}, strings.Fields(c[1]))
 		if err != nil {
