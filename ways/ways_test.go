@@ -20,6 +20,7 @@ func TestWays(t *testing.T) {
 		{"table", "variadic"},
 		{"pair", "map delete"},
 		{"hist", "range-function"},
+		{"show", "closure"},
 	} {
 		missing, err := WaysMissing("..", "deemster", []string{c[0]}, strings.Fields(c[1]))
 		if err != nil {
