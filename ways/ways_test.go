@@ -21,6 +21,7 @@ func TestWays(t *testing.T) {
 		{"pair", "map delete"},
 		{"hist", "range-function"},
 		{"show", "closure"},
+		{"inner", "range-function"},
 	} {
 		missing, err := WaysMissing("..", "deemster", []string{c[0]}, strings.Fields(c[1]))
 		if err != nil {
