@@ -22,6 +22,7 @@ func TestWays(t *testing.T) {
 		{"hist", "range-function"},
 		{"show", "closure"},
 		{"inner", "range-function"},
+		{"erase", "map"},
 	} {
 		missing, err := WaysMissing("..", "deemster", []string{c[0]}, strings.Fields(c[1]))
 		if err != nil {
