@@ -23,6 +23,7 @@ func TestWays(t *testing.T) {
 		{"show", "closure"},
 		{"inner", "range-function"},
 		{"erase", "map"},
+		{"writer", "map range-map"},
 	} {
 		missing, err := WaysMissing("..", "deemster", []string{c[0]}, strings.Fields(c[1]))
 		if err != nil {
