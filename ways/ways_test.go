@@ -24,6 +24,7 @@ func TestWays(t *testing.T) {
 		{"inner", "range-function"},
 		{"erase", "map"},
 		{"writer", "map range-map"},
+		{"world", "closure"},
 	} {
 		missing, err := WaysMissing("..", "deemster", []string{c[0]}, strings.Fields(c[1]))
 		if err != nil {
