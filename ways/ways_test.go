@@ -25,6 +25,7 @@ func TestWays(t *testing.T) {
 		{"erase", "map"},
 		{"writer", "map range-map"},
 		{"world", "closure"},
+		{"whole", "struct-compared"},
 	} {
 		missing, err := WaysMissing("..", "deemster", []string{c[0]}, strings.Fields(c[1]))
 		if err != nil {
