@@ -26,6 +26,7 @@ func TestWays(t *testing.T) {
 		{"writer", "map range-map"},
 		{"world", "closure"},
 		{"whole", "struct-compared"},
+		{"bits", "array-compared"},
 	} {
 		missing, err := WaysMissing("..", "deemster", []string{c[0]}, strings.Fields(c[1]))
 		if err != nil {
