@@ -27,6 +27,7 @@ func TestWays(t *testing.T) {
 		{"world", "closure"},
 		{"whole", "struct-compared"},
 		{"bits", "array-compared"},
+		{"graph", "variadic"},
 	} {
 		missing, err := WaysMissing("..", "deemster", []string{c[0]}, strings.Fields(c[1]))
 		if err != nil {
