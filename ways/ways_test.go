@@ -28,6 +28,7 @@ func TestWays(t *testing.T) {
 		{"whole", "struct-compared"},
 		{"bits", "array-compared"},
 		{"graph", "variadic"},
+		{"part", "closure"},
 	} {
 		missing, err := WaysMissing("..", "deemster", []string{c[0]}, strings.Fields(c[1]))
 		if err != nil {
