@@ -29,6 +29,7 @@ func TestWays(t *testing.T) {
 		{"bits", "array-compared"},
 		{"graph", "variadic"},
 		{"part", "closure"},
+		{"close", "closure"},
 	} {
 		missing, err := WaysMissing("..", "deemster", []string{c[0]}, strings.Fields(c[1]))
 		if err != nil {
