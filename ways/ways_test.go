@@ -30,6 +30,7 @@ func TestWays(t *testing.T) {
 		{"graph", "variadic"},
 		{"part", "closure"},
 		{"close", "closure"},
+		{"topo", "map"},
 	} {
 		missing, err := WaysMissing("..", "deemster", []string{c[0]}, strings.Fields(c[1]))
 		if err != nil {
