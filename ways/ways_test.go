@@ -31,6 +31,7 @@ func TestWays(t *testing.T) {
 		{"part", "closure"},
 		{"close", "closure"},
 		{"topo", "map"},
+		{"ring", "closure"},
 	} {
 		missing, err := WaysMissing("..", "deemster", []string{c[0]}, strings.Fields(c[1]))
 		if err != nil {
