@@ -52,3 +52,14 @@ func Bad(l []api.Op) []int {
 	}
 	return reads
 }
+
+// Last tells those ops that are the last write of their key, in order.
+func Last(l []api.Op) []api.Op {
+	var last []api.Op
+	for i, op := range l {
+		if _, again := Left(l[i+1:], op.Key); op.Write && !again {
+			last = append(last, op)
+		}
+	}
+	return last
+}

@@ -32,6 +32,7 @@ func TestWays(t *testing.T) {
 		{"close", "closure"},
 		{"topo", "map"},
 		{"ring", "closure"},
+		{"wr", "closure"},
 	} {
 		missing, err := WaysMissing("..", "deemster", []string{c[0]}, strings.Fields(c[1]))
 		if err != nil {
