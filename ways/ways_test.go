@@ -33,6 +33,7 @@ func TestWays(t *testing.T) {
 		{"topo", "map"},
 		{"ring", "closure"},
 		{"wr", "closure"},
+		{"axiom", "closure"},
 	} {
 		missing, err := WaysMissing("..", "deemster", []string{c[0]}, strings.Fields(c[1]))
 		if err != nil {
