@@ -34,6 +34,7 @@ func TestWays(t *testing.T) {
 		{"ring", "closure"},
 		{"wr", "closure"},
 		{"axiom", "closure"},
+		{"cert", "map range-map"},
 	} {
 		missing, err := WaysMissing("..", "deemster", []string{c[0]}, strings.Fields(c[1]))
 		if err != nil {
