@@ -35,6 +35,7 @@ func TestWays(t *testing.T) {
 		{"wr", "closure"},
 		{"axiom", "closure"},
 		{"cert", "map range-map"},
+		{"satur", "closure"},
 	} {
 		missing, err := WaysMissing("..", "deemster", []string{c[0]}, strings.Fields(c[1]))
 		if err != nil {
