@@ -36,6 +36,7 @@ func TestWays(t *testing.T) {
 		{"axiom", "closure"},
 		{"cert", "map range-map"},
 		{"satur", "closure"},
+		{"front", "map"},
 	} {
 		missing, err := WaysMissing("..", "deemster", []string{c[0]}, strings.Fields(c[1]))
 		if err != nil {
