@@ -37,6 +37,7 @@ func TestWays(t *testing.T) {
 		{"cert", "map range-map"},
 		{"satur", "closure"},
 		{"front", "map"},
+		{"decide", "closure"},
 	} {
 		missing, err := WaysMissing("..", "deemster", []string{c[0]}, strings.Fields(c[1]))
 		if err != nil {
