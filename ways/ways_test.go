@@ -38,6 +38,7 @@ func TestWays(t *testing.T) {
 		{"satur", "closure"},
 		{"front", "map"},
 		{"decide", "closure"},
+		{"why", "iota"},
 	} {
 		missing, err := WaysMissing("..", "deemster", []string{c[0]}, strings.Fields(c[1]))
 		if err != nil {
