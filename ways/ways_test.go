@@ -39,6 +39,7 @@ func TestWays(t *testing.T) {
 		{"front", "map"},
 		{"decide", "closure"},
 		{"why", "iota"},
+		{"trail", "range-integer copy"},
 	} {
 		missing, err := WaysMissing("..", "deemster", []string{c[0]}, strings.Fields(c[1]))
 		if err != nil {
