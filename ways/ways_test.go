@@ -40,6 +40,7 @@ func TestWays(t *testing.T) {
 		{"decide", "closure"},
 		{"why", "iota"},
 		{"trail", "range-integer copy"},
+		{"domain", "variadic"},
 	} {
 		missing, err := WaysMissing("..", "deemster", []string{c[0]}, strings.Fields(c[1]))
 		if err != nil {
