@@ -41,6 +41,7 @@ func TestWays(t *testing.T) {
 		{"why", "iota"},
 		{"trail", "range-integer copy"},
 		{"domain", "variadic"},
+		{"unit", "map"},
 	} {
 		missing, err := WaysMissing("..", "deemster", []string{c[0]}, strings.Fields(c[1]))
 		if err != nil {
