@@ -42,6 +42,7 @@ func TestWays(t *testing.T) {
 		{"trail", "range-integer copy"},
 		{"domain", "variadic"},
 		{"unit", "map"},
+		{"fuel", "closure"},
 	} {
 		missing, err := WaysMissing("..", "deemster", []string{c[0]}, strings.Fields(c[1]))
 		if err != nil {
