@@ -43,6 +43,7 @@ func TestWays(t *testing.T) {
 		{"domain", "variadic"},
 		{"unit", "map"},
 		{"fuel", "closure"},
+		{"search", "method-value embedding promoted"},
 	} {
 		missing, err := WaysMissing("..", "deemster", []string{c[0]}, strings.Fields(c[1]))
 		if err != nil {
