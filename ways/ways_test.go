@@ -44,6 +44,7 @@ func TestWays(t *testing.T) {
 		{"unit", "map"},
 		{"fuel", "closure"},
 		{"search", "method-value embedding promoted"},
+		{"forced", "generic-function closure"},
 	} {
 		missing, err := WaysMissing("..", "deemster", []string{c[0]}, strings.Fields(c[1]))
 		if err != nil {
