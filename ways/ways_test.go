@@ -45,6 +45,7 @@ func TestWays(t *testing.T) {
 		{"fuel", "closure"},
 		{"search", "method-value embedding promoted"},
 		{"forced", "generic-function closure"},
+		{"judge", "array"},
 	} {
 		missing, err := WaysMissing("..", "deemster", []string{c[0]}, strings.Fields(c[1]))
 		if err != nil {
