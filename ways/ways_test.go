@@ -46,6 +46,7 @@ func TestWays(t *testing.T) {
 		{"search", "method-value embedding promoted"},
 		{"forced", "generic-function closure"},
 		{"judge", "array"},
+		{"report", "closure"},
 	} {
 		missing, err := WaysMissing("..", "deemster", []string{c[0]}, strings.Fields(c[1]))
 		if err != nil {
