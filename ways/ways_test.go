@@ -47,6 +47,7 @@ func TestWays(t *testing.T) {
 		{"forced", "generic-function closure"},
 		{"judge", "array"},
 		{"report", "closure"},
+		{"text", "constant-table"},
 	} {
 		missing, err := WaysMissing("..", "deemster", []string{c[0]}, strings.Fields(c[1]))
 		if err != nil {
