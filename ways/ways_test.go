@@ -48,6 +48,7 @@ func TestWays(t *testing.T) {
 		{"judge", "array"},
 		{"report", "closure"},
 		{"text", "constant-table"},
+		{"back", "panic recover defer"},
 	} {
 		missing, err := WaysMissing("..", "deemster", []string{c[0]}, strings.Fields(c[1]))
 		if err != nil {
