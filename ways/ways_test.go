@@ -49,6 +49,7 @@ func TestWays(t *testing.T) {
 		{"report", "closure"},
 		{"text", "constant-table"},
 		{"back", "panic recover defer"},
+		{"bound", "variadic"},
 	} {
 		missing, err := WaysMissing("..", "deemster", []string{c[0]}, strings.Fields(c[1]))
 		if err != nil {
