@@ -50,6 +50,7 @@ func TestWays(t *testing.T) {
 		{"text", "constant-table"},
 		{"back", "panic recover defer"},
 		{"bound", "variadic"},
+		{"check", "iota"},
 	} {
 		missing, err := WaysMissing("..", "deemster", []string{c[0]}, strings.Fields(c[1]))
 		if err != nil {
