@@ -51,6 +51,7 @@ func TestWays(t *testing.T) {
 		{"back", "panic recover defer"},
 		{"bound", "variadic"},
 		{"check", "iota"},
+		{"script", "label"},
 	} {
 		missing, err := WaysMissing("..", "deemster", []string{c[0]}, strings.Fields(c[1]))
 		if err != nil {
