@@ -52,6 +52,7 @@ func TestWays(t *testing.T) {
 		{"bound", "variadic"},
 		{"check", "iota"},
 		{"script", "label"},
+		{"desk", "method-value"},
 	} {
 		missing, err := WaysMissing("..", "deemster", []string{c[0]}, strings.Fields(c[1]))
 		if err != nil {
