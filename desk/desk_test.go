@@ -59,6 +59,30 @@ func TestPlay(t *testing.T) {
 	}
 }
 
+// hard is a log that takes 100,000 nodes by CC: so many maps there are, and none of them does.
+func hard() string {
+	var b strings.Builder
+	for range 5 {
+		b.WriteString("begin a, write a x 1, ok a, ")
+	}
+	for range 2 {
+		b.WriteString("begin a, write a y 1, ok a, ")
+	}
+	b.WriteString("begin b, " + strings.Repeat("read b x 1, ", 5) + strings.Repeat("read b y 1, ", 5) + "ok b, begin c, write c z 1, ok c, begin c, read c z nil, ok c")
+	return b.String()
+}
+
+func TestFirstBudget(t *testing.T) {
+	for log, want := range map[string]string{
+		hard(): "violated", // one of unknown fate that must not commit takes a node more
+		hard() + ", begin d, write d z 5, read d z 6, info d": "exhausted",
+	} {
+		if got, _, e := desk.Play(lines(log), "level CC\ncheck"); got != want+"\n" || e != api.OK {
+			t.Errorf("%q %v, want %q", got, e, want)
+		}
+	}
+}
+
 func TestPlayWrong(t *testing.T) {
 	for _, c := range []struct {
 		s  string

@@ -119,14 +119,17 @@ func TestLong(t *testing.T) {
 		}
 	}
 	r.Sat, r.Unsat = api.History{}, api.History{}
-	r.Cert.Wr = slices.Repeat([]int{1}, (api.MaxText-len(base))/2)
-	r.Cert.Co = nil
-	if s, e := text.Print(r); len(s) != len(base)+2*len(r.Cert.Wr) || e != api.OK {
+	room := api.MaxText - len(base)
+	r.Cert.Wr = slices.Repeat([]int{1}, room/2)
+	if room%2 == 1 {
+		r.Cert.Wr = append(r.Cert.Wr[1:], 10)
+	}
+	if s, e := text.Print(r); len(s) != api.MaxText || e != api.OK {
 		t.Errorf("just the most: %d bytes, %v", len(s), e)
 	}
-	r.Cert.Co = []int{100}
+	r.Cert.Wr[0] = 10
 	if s, e := text.Print(r); s != "" || e != api.ErrLong {
-		t.Errorf("more than the most: %d bytes, %v", len(s), e)
+		t.Errorf("one byte more than the most: %d bytes, %v", len(s), e)
 	}
 }
 

@@ -116,6 +116,10 @@ func TestOfWhatIsNotWhole(t *testing.T) {
 			t.Errorf("Next: %v %v", m, is)
 		}
 	}
+	two := sample.Of("begin a, write a x 1, ok a, begin b, write b x 1, ok b, begin c, read c x 1, ok c, begin d, info d")
+	if m, is := wr.Next(two, []int{0}); len(m) > 0 || is || wr.Is(two, []int{0}) {
+		t.Errorf("Next: %v %v", m, is)
+	}
 }
 
 func TestFromFirstOnComeAll(t *testing.T) {
