@@ -1,7 +1,6 @@
 package cert_test
 
 import (
-	"slices"
 	"testing"
 
 	"deemster/api"
@@ -53,30 +52,13 @@ func TestCheck(t *testing.T) {
 	}
 }
 
-// orders tells all orders of a few transactions.
-func orders(l []int) [][]int {
-	all := [][]int{{}}
-	for range l {
-		var more [][]int
-		for _, o := range all {
-			for _, t := range l {
-				if !slices.Contains(o, t) {
-					more = append(more, append(slices.Clone(o), t))
-				}
-			}
-		}
-		all = more
-	}
-	return all
-}
-
 func TestCertificatesAreWhatHolds(t *testing.T) {
 	right := map[int]int{}
 	for n := range 900 {
 		h := sample.History(n, sample.Shape{Sessions: 3, Keys: 2, Txns: 5, Ops: 3, Values: 2})
 		m, e := wr.First(h)
 		for is := e == api.OK; is; m, is = wr.Next(h, m) {
-			for _, o := range orders(whole.Committed(h)) {
+			for _, o := range sample.Orders(whole.Committed(h)) {
 				was := true
 				for _, level := range levels {
 					want, _ := axiom.Holds(level, h, m, o)

@@ -21,28 +21,11 @@ import (
 	"deemster/wr"
 )
 
-// orders tells all lists that have each of a few once.
-func orders(l []int) [][]int {
-	all := [][]int{{}}
-	for range l {
-		var more [][]int
-		for _, o := range all {
-			for _, t := range l {
-				if !slices.Contains(o, t) {
-					more = append(more, append(slices.Clone(o), t))
-				}
-			}
-		}
-		all = more
-	}
-	return all
-}
-
 // holds tells whether a level holds for a whole history, by some map and some order.
 func holds(level int, h api.History) bool {
 	m, e := wr.First(h)
 	for is := e == api.OK; is; m, is = wr.Next(h, m) {
-		for _, o := range orders(whole.Committed(h)) {
+		for _, o := range sample.Orders(whole.Committed(h)) {
 			if yes, _ := axiom.Holds(level, h, m, o); yes {
 				return true
 			}

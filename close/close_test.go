@@ -6,16 +6,8 @@ import (
 
 	"deemster/api"
 	"deemster/close"
+	"deemster/sample"
 )
-
-// edges tells the edges from each first to each second of the numbers.
-func edges(l ...int) []api.Edge {
-	var all []api.Edge
-	for i := 0; i+1 < len(l); i += 2 {
-		all = append(all, api.Edge{A: l[i], B: l[i+1]})
-	}
-	return all
-}
 
 func TestOf(t *testing.T) {
 	for _, c := range []struct {
@@ -24,10 +16,10 @@ func TestOf(t *testing.T) {
 	}{
 		{0, nil, nil},
 		{2, nil, nil},
-		{3, edges(0, 1, 1, 2), edges(0, 1, 0, 2, 1, 2)},
-		{3, edges(1, 2, 1, 2, 0, 1), edges(0, 1, 0, 2, 1, 2)},
-		{2, edges(1, 1), edges(1, 1)},
-		{3, edges(2, 0, 0, 2), edges(0, 0, 0, 2, 2, 0, 2, 2)},
+		{3, sample.Edges(0, 1, 1, 2), sample.Edges(0, 1, 0, 2, 1, 2)},
+		{3, sample.Edges(1, 2, 1, 2, 0, 1), sample.Edges(0, 1, 0, 2, 1, 2)},
+		{2, sample.Edges(1, 1), sample.Edges(1, 1)},
+		{3, sample.Edges(2, 0, 0, 2), sample.Edges(0, 0, 0, 2, 2, 0, 2, 2)},
 	} {
 		if got, e := close.Of(c.n, c.l...); !slices.Equal(got, c.want) || e != api.OK {
 			t.Errorf("Of(%d, %v): %v %v", c.n, c.l, got, e)
@@ -36,7 +28,7 @@ func TestOf(t *testing.T) {
 }
 
 func TestFrom(t *testing.T) {
-	l := edges(0, 1, 1, 2, 2, 1, 3, 0, 4, 4)
+	l := sample.Edges(0, 1, 1, 2, 2, 1, 3, 0, 4, 4)
 	for a, want := range [][]int{{1, 2}, {1, 2}, {1, 2}, {0, 1, 2}, {4}, nil} {
 		if got, e := close.From(6, a, l...); !slices.Equal(got, want) || e != api.OK {
 			t.Errorf("From %d: %v %v", a, got, e)
@@ -55,11 +47,11 @@ func TestThin(t *testing.T) {
 		l, want []api.Edge
 	}{
 		{0, nil, nil},
-		{3, edges(0, 2, 1, 2, 0, 1, 0, 1), edges(0, 1, 1, 2)},
-		{4, edges(3, 0, 3, 1, 1, 2, 3, 2, 0, 2), edges(0, 2, 1, 2, 3, 0, 3, 1)},
-		{4, edges(0, 1, 1, 2, 2, 3, 0, 3, 0, 2, 1, 3), edges(0, 1, 1, 2, 2, 3)},
-		{3, edges(1, 2, 0, 1, 0, 2, 2, 2, 0, 1), edges(0, 1, 0, 2, 1, 2, 2, 2)},
-		{3, edges(1, 0, 0, 1, 1, 2, 0, 2, 0, 2), edges(0, 1, 0, 2, 1, 0, 1, 2)},
+		{3, sample.Edges(0, 2, 1, 2, 0, 1, 0, 1), sample.Edges(0, 1, 1, 2)},
+		{4, sample.Edges(3, 0, 3, 1, 1, 2, 3, 2, 0, 2), sample.Edges(0, 2, 1, 2, 3, 0, 3, 1)},
+		{4, sample.Edges(0, 1, 1, 2, 2, 3, 0, 3, 0, 2, 1, 3), sample.Edges(0, 1, 1, 2, 2, 3)},
+		{3, sample.Edges(1, 2, 0, 1, 0, 2, 2, 2, 0, 1), sample.Edges(0, 1, 0, 2, 1, 2, 2, 2)},
+		{3, sample.Edges(1, 0, 0, 1, 1, 2, 0, 2, 0, 2), sample.Edges(0, 1, 0, 2, 1, 0, 1, 2)},
 	} {
 		if got, e := close.Thin(c.n, c.l...); !slices.Equal(got, c.want) || e != api.OK {
 			t.Errorf("Thin(%d, %v): %v %v", c.n, c.l, got, e)
@@ -71,7 +63,7 @@ func TestWrong(t *testing.T) {
 	for _, c := range []struct {
 		n int
 		l []api.Edge
-	}{{-1, nil}, {api.MaxNodes + 1, nil}, {2, edges(0, 1, 0, 2)}, {2, edges(-1, 0)}, {0, edges(0, 0)}} {
+	}{{-1, nil}, {api.MaxNodes + 1, nil}, {2, sample.Edges(0, 1, 0, 2)}, {2, sample.Edges(-1, 0)}, {0, sample.Edges(0, 0)}} {
 		if got, e := close.Of(c.n, c.l...); len(got) > 0 || e != api.ErrArg {
 			t.Errorf("Of(%d, %v): %v %v", c.n, c.l, got, e)
 		}

@@ -81,23 +81,6 @@ func TestWrong(t *testing.T) {
 	}
 }
 
-// orders tells all orders of a few transactions.
-func orders(l []int) [][]int {
-	all := [][]int{{}}
-	for range l {
-		var more [][]int
-		for _, o := range all {
-			for _, t := range l {
-				if !slices.Contains(o, t) {
-					more = append(more, append(slices.Clone(o), t))
-				}
-			}
-		}
-		all = more
-	}
-	return all
-}
-
 // plain goes through maps and orders by what the level asks, and counts the nodes.
 func plain(level int, h api.History) (bool, int) {
 	committed := whole.Committed(h)
@@ -114,7 +97,7 @@ func plain(level int, h api.History) (bool, int) {
 		} else {
 			nodes++
 		}
-		for _, o := range orders(committed) {
+		for _, o := range sample.Orders(committed) {
 			if holds, _ := axiom.Holds(level, h, m, o); holds {
 				return true, nodes
 			}

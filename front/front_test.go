@@ -123,23 +123,6 @@ func TestFull(t *testing.T) {
 	}
 }
 
-// lists tells all lists that have each of a few once, the least one first.
-func lists(l []int) [][]int {
-	all := [][]int{{}}
-	for range l {
-		var more [][]int
-		for _, o := range all {
-			for _, t := range l {
-				if !slices.Contains(o, t) {
-					more = append(more, append(slices.Clone(o), t))
-				}
-			}
-		}
-		all = more
-	}
-	return all
-}
-
 // visits tells the nodes and the order by the words alone, with states as sorted texts.
 func visits(h api.History, m, committed []int) (int, []int) {
 	visited := map[string]int{}
@@ -182,7 +165,7 @@ func TestTheOrderIsTheLeastByWhichSERHolds(t *testing.T) {
 		for is := e == api.OK; is; m, is = wr.Next(h, m) {
 			got, nodes, e := front.Order(h, m, 1<<10)
 			var want []int
-			for _, o := range lists(committed) {
+			for _, o := range sample.Orders(committed) {
 				if holds, _ := axiom.Holds(api.SER, h, m, o); holds && want == nil {
 					want = o
 				}

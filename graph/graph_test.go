@@ -6,16 +6,8 @@ import (
 
 	"deemster/api"
 	"deemster/graph"
+	"deemster/sample"
 )
-
-// edges tells the edges from each first to each second of the numbers.
-func edges(l ...int) []api.Edge {
-	var all []api.Edge
-	for i := 0; i+1 < len(l); i += 2 {
-		all = append(all, api.Edge{A: l[i], B: l[i+1]})
-	}
-	return all
-}
 
 func TestNew(t *testing.T) {
 	for n, want := range map[int]api.Errno{0: api.OK, 1: api.OK, 7: api.OK, api.MaxNodes: api.OK, api.MaxNodes + 1: api.ErrArg, -1: api.ErrArg, 1 << 62: api.ErrArg, -1 << 63: api.ErrArg} {
@@ -27,16 +19,16 @@ func TestNew(t *testing.T) {
 }
 
 func TestOf(t *testing.T) {
-	in := edges(2, 0, 0, 1, 0, 1, 0, 0, 2, 0, 1, 2)
+	in := sample.Edges(2, 0, 0, 1, 0, 1, 0, 0, 2, 0, 1, 2)
 	g, e := graph.Of(3, in...)
-	if e != api.OK || !slices.Equal(g.Edges(), edges(0, 0, 0, 1, 1, 2, 2, 0)) || g.Mark() != 4 || g.Len() != 3 {
+	if e != api.OK || !slices.Equal(g.Edges(), sample.Edges(0, 0, 0, 1, 1, 2, 2, 0)) || g.Mark() != 4 || g.Len() != 3 {
 		t.Errorf("%v %v", g.Edges(), e)
 	}
 	g.Undo(2) // they were put in order
-	if !slices.Equal(g.Edges(), edges(0, 1, 2, 0)) {
+	if !slices.Equal(g.Edges(), sample.Edges(0, 1, 2, 0)) {
 		t.Errorf("%v", g.Edges())
 	}
-	for _, l := range [][]api.Edge{edges(0, 3), edges(3, 0), edges(0, 1, -1, 0), edges(0, 1, 0, -1), edges(1<<62, 0)} {
+	for _, l := range [][]api.Edge{sample.Edges(0, 3), sample.Edges(3, 0), sample.Edges(0, 1, -1, 0), sample.Edges(0, 1, 0, -1), sample.Edges(1<<62, 0)} {
 		if g, e := graph.Of(3, l...); g != nil || e != api.ErrArg {
 			t.Errorf("Of(3, %v): %v", l, e)
 		}
@@ -65,7 +57,7 @@ func TestPutHasNextBack(t *testing.T) {
 			t.Errorf("Put(%d, %d): %v %v", c.a, c.b, news, e)
 		}
 	}
-	if g.Mark() != 5 || !slices.Equal(g.Edges(), edges(0, 0, 0, 1, 0, 3, 2, 2, 3, 1)) {
+	if g.Mark() != 5 || !slices.Equal(g.Edges(), sample.Edges(0, 0, 0, 1, 0, 3, 2, 2, 3, 1)) {
 		t.Errorf("%d: %v", g.Mark(), g.Edges())
 	}
 	for a := -2; a < 6; a++ {
@@ -105,7 +97,7 @@ func TestUndo(t *testing.T) {
 	if e := g.Undo(3); e != api.OK || g.Mark() != 3 {
 		t.Errorf("Undo of nothing: %v", e)
 	}
-	if e := g.Undo(mark); e != api.OK || !slices.Equal(g.Edges(), edges(0, 1)) || g.Mark() != 1 || g.Has(1, 0) || len(g.Back(0)) > 0 || len(g.Next(1)) > 0 {
+	if e := g.Undo(mark); e != api.OK || !slices.Equal(g.Edges(), sample.Edges(0, 1)) || g.Mark() != 1 || g.Has(1, 0) || len(g.Back(0)) > 0 || len(g.Next(1)) > 0 {
 		t.Errorf("%v %v", e, g.Edges())
 	}
 	if news, e := g.Put(1, 0); !news || e != api.OK {

@@ -7,16 +7,8 @@ import (
 
 	"deemster/api"
 	"deemster/part"
+	"deemster/sample"
 )
-
-// edges tells the edges from each first to each second of the numbers.
-func edges(l ...int) []api.Edge {
-	var all []api.Edge
-	for i := 0; i+1 < len(l); i += 2 {
-		all = append(all, api.Edge{A: l[i], B: l[i+1]})
-	}
-	return all
-}
 
 func TestExamples(t *testing.T) {
 	for _, c := range []struct {
@@ -28,11 +20,11 @@ func TestExamples(t *testing.T) {
 	}{
 		{0, nil, nil, nil, false},
 		{1, nil, [][]int{{0}}, []int{0}, false},
-		{1, edges(0, 0), [][]int{{0}}, []int{0}, true},
-		{3, edges(0, 1, 1, 0, 1, 2), [][]int{{0, 1}, {2}}, []int{0, 0, 1}, true},
-		{3, edges(2, 1, 1, 0, 2, 0), [][]int{{0}, {1}, {2}}, []int{0, 1, 2}, false},
-		{5, edges(4, 0, 0, 4, 3, 1, 1, 3, 0, 1, 2, 2), [][]int{{0, 4}, {1, 3}, {2}}, []int{0, 1, 2, 1, 0}, true},
-		{4, edges(3, 2, 2, 1, 1, 3, 1, 0), [][]int{{0}, {1, 2, 3}}, []int{0, 1, 1, 1}, true},
+		{1, sample.Edges(0, 0), [][]int{{0}}, []int{0}, true},
+		{3, sample.Edges(0, 1, 1, 0, 1, 2), [][]int{{0, 1}, {2}}, []int{0, 0, 1}, true},
+		{3, sample.Edges(2, 1, 1, 0, 2, 0), [][]int{{0}, {1}, {2}}, []int{0, 1, 2}, false},
+		{5, sample.Edges(4, 0, 0, 4, 3, 1, 1, 3, 0, 1, 2, 2), [][]int{{0, 4}, {1, 3}, {2}}, []int{0, 1, 2, 1, 0}, true},
+		{4, sample.Edges(3, 2, 2, 1, 1, 3, 1, 0), [][]int{{0}, {1, 2, 3}}, []int{0, 1, 1, 1}, true},
 	} {
 		parts, e := part.Of(c.n, c.l...)
 		if len(parts) != len(c.parts) || len(parts) > 0 && !reflect.DeepEqual(parts, c.parts) || e != api.OK {
@@ -51,7 +43,7 @@ func TestWrong(t *testing.T) {
 	for _, c := range []struct {
 		n int
 		l []api.Edge
-	}{{-1, nil}, {api.MaxNodes + 1, nil}, {2, edges(0, 2)}, {2, edges(0, 1, 1, 0, -1, 0)}, {0, edges(0, 0)}, {-1 << 63, edges(0, 0)}} {
+	}{{-1, nil}, {api.MaxNodes + 1, nil}, {2, sample.Edges(0, 2)}, {2, sample.Edges(0, 1, 1, 0, -1, 0)}, {0, sample.Edges(0, 0)}, {-1 << 63, sample.Edges(0, 0)}} {
 		if parts, e := part.Of(c.n, c.l...); len(parts) > 0 || e != api.ErrArg {
 			t.Errorf("Of(%d, %v): %v %v", c.n, c.l, parts, e)
 		}

@@ -7,17 +7,9 @@ import (
 	"deemster/api"
 	"deemster/part"
 	"deemster/ring"
+	"deemster/sample"
 	"deemster/topo"
 )
-
-// edges tells the edges from each first to each second of the numbers.
-func edges(l ...int) []api.Edge {
-	var all []api.Edge
-	for i := 0; i+1 < len(l); i += 2 {
-		all = append(all, api.Edge{A: l[i], B: l[i+1]})
-	}
-	return all
-}
 
 func TestLeast(t *testing.T) {
 	for _, c := range []struct {
@@ -27,18 +19,18 @@ func TestLeast(t *testing.T) {
 		e    api.Errno
 	}{
 		{0, nil, nil, api.ErrNone},
-		{3, edges(0, 1, 1, 2, 0, 2), nil, api.ErrNone},
-		{3, edges(0, 1, 1, 2, 2, 0, 2, 1), []int{1, 2}, api.OK},
-		{3, edges(0, 1, 1, 0, 2, 2), []int{2}, api.OK},
-		{3, edges(2, 2, 1, 1), []int{1}, api.OK},
-		{3, edges(0, 2, 2, 1, 1, 0), []int{0, 2, 1}, api.OK},
-		{5, edges(0, 4, 4, 3, 3, 0, 0, 2, 2, 1, 1, 0), []int{0, 2, 1}, api.OK},
-		{5, edges(0, 1, 1, 4, 1, 3, 4, 0, 3, 0), []int{0, 1, 3}, api.OK},
-		{5, edges(0, 3, 3, 4, 4, 0, 1, 2, 2, 4, 4, 1, 0, 1), []int{0, 3, 4}, api.OK},
-		{4, edges(3, 2, 2, 3, 1, 2, 2, 1, 0, 1), []int{1, 2}, api.OK},
+		{3, sample.Edges(0, 1, 1, 2, 0, 2), nil, api.ErrNone},
+		{3, sample.Edges(0, 1, 1, 2, 2, 0, 2, 1), []int{1, 2}, api.OK},
+		{3, sample.Edges(0, 1, 1, 0, 2, 2), []int{2}, api.OK},
+		{3, sample.Edges(2, 2, 1, 1), []int{1}, api.OK},
+		{3, sample.Edges(0, 2, 2, 1, 1, 0), []int{0, 2, 1}, api.OK},
+		{5, sample.Edges(0, 4, 4, 3, 3, 0, 0, 2, 2, 1, 1, 0), []int{0, 2, 1}, api.OK},
+		{5, sample.Edges(0, 1, 1, 4, 1, 3, 4, 0, 3, 0), []int{0, 1, 3}, api.OK},
+		{5, sample.Edges(0, 3, 3, 4, 4, 0, 1, 2, 2, 4, 4, 1, 0, 1), []int{0, 3, 4}, api.OK},
+		{4, sample.Edges(3, 2, 2, 3, 1, 2, 2, 1, 0, 1), []int{1, 2}, api.OK},
 		{-1, nil, nil, api.ErrArg},
 		{api.MaxNodes + 1, nil, nil, api.ErrArg},
-		{2, edges(0, 1, 1, 0, 2, 0), nil, api.ErrArg},
+		{2, sample.Edges(0, 1, 1, 0, 2, 0), nil, api.ErrArg},
 	} {
 		if got, e := ring.Least(c.n, c.l...); !slices.Equal(got, c.want) || e != c.e {
 			t.Errorf("Least(%d, %v): %v %v, want %v %v", c.n, c.l, got, e, c.want, c.e)
@@ -47,7 +39,7 @@ func TestLeast(t *testing.T) {
 }
 
 func TestIs(t *testing.T) {
-	l := edges(0, 1, 1, 2, 2, 0, 1, 0, 2, 2, 3, 0)
+	l := sample.Edges(0, 1, 1, 2, 2, 0, 1, 0, 2, 2, 3, 0)
 	for _, right := range [][]int{{0, 1, 2}, {0, 1}, {2}} {
 		if !ring.Is(4, right, l...) {
 			t.Errorf("%v is a ring", right)

@@ -1,7 +1,8 @@
-// Package sample makes histories for tests: from short texts, and by number, the same one for the same number each time.
+// Package sample makes what tests need: histories from short texts, and by number, the same one for the same number each time; edges; and orders.
 package sample
 
 import (
+	"slices"
 	"strings"
 
 	"deemster/api"
@@ -74,4 +75,30 @@ func (m *mixer) fate(s Shape) string {
 		return "info"
 	}
 	return "ok"
+}
+
+// Edges tells the edges from each first to each second of the numbers.
+func Edges(l ...int) []api.Edge {
+	var all []api.Edge
+	for i := 0; i+1 < len(l); i += 2 {
+		all = append(all, api.Edge{A: l[i], B: l[i+1]})
+	}
+	return all
+}
+
+// Orders tells all lists that have each of a few numbers once, those of the numbers that stand first ahead.
+func Orders(l []int) [][]int {
+	all := [][]int{{}}
+	for range l {
+		var more [][]int
+		for _, o := range all {
+			for _, n := range l {
+				if !slices.Contains(o, n) {
+					more = append(more, append(slices.Clone(o), n))
+				}
+			}
+		}
+		all = more
+	}
+	return all
 }

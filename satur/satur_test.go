@@ -15,15 +15,6 @@ import (
 	"deemster/wr"
 )
 
-// edges tells the edges from each first to each second of the numbers.
-func edges(l ...int) []api.Edge {
-	var all []api.Edge
-	for i := 0; i+1 < len(l); i += 2 {
-		all = append(all, api.Edge{A: l[i], B: l[i+1]})
-	}
-	return all
-}
-
 func TestExamples(t *testing.T) {
 	for _, c := range []struct {
 		what, text  string
@@ -35,20 +26,20 @@ func TestExamples(t *testing.T) {
 		{"nothing", "", api.RC, nil, nil, nil, nil},
 		{"one that failed", "begin s, fail s", api.CC, nil, nil, nil, nil},
 		{"a session goes on", "begin s, ok s, begin t, ok t, begin s, fail s, begin s, ok s, begin s, ok s", api.RC, nil,
-			edges(0, 3, 0, 4, 3, 4, 5, 0, 5, 1, 5, 3, 5, 4), []int{0, 1, 3, 4}, nil},
+			sample.Edges(0, 3, 0, 4, 3, 4, 5, 0, 5, 1, 5, 3, 5, 4), []int{0, 1, 3, 4}, nil},
 		{"two that read one another's writes", "begin s, write s x 1, read s y 1, ok s, begin t, write t y 1, read t x 1, ok t", api.RC, []int{1, 0},
-			edges(0, 1, 1, 0, 2, 0, 2, 1), nil, []int{0, 1}},
+			sample.Edges(0, 1, 1, 0, 2, 0, 2, 1), nil, []int{0, 1}},
 		{"the least order", "begin s, read s x 1, ok s, begin t, ok t, begin u, write u x 1, ok u", api.CC, []int{2},
-			edges(2, 0, 3, 0, 3, 1, 3, 2), []int{1, 2, 0}, nil},
-		{"nil behind a write, by RC", "begin s, write s x 1, ok s, begin s, read s x nil, ok s", api.RC, []int{-1}, edges(0, 1, 2, 0, 2, 1), []int{0, 1}, nil},
-		{"nil behind a write, by CC", "begin s, write s x 1, ok s, begin s, read s x nil, ok s", api.CC, []int{-1}, edges(0, 1, 0, 2, 2, 0, 2, 1), nil, []int{0, 2}},
+			sample.Edges(2, 0, 3, 0, 3, 1, 3, 2), []int{1, 2, 0}, nil},
+		{"nil behind a write, by RC", "begin s, write s x 1, ok s, begin s, read s x nil, ok s", api.RC, []int{-1}, sample.Edges(0, 1, 2, 0, 2, 1), []int{0, 1}, nil},
+		{"nil behind a write, by CC", "begin s, write s x 1, ok s, begin s, read s x nil, ok s", api.CC, []int{-1}, sample.Edges(0, 1, 0, 2, 2, 0, 2, 1), nil, []int{0, 2}},
 		{"reads of two, by RC", "begin s, write s x 1, ok s, begin t, write t x 2, write t y 2, ok t, begin u, read u y 2, read u x 1, ok u", api.RC, []int{1, 0},
-			edges(0, 2, 1, 0, 1, 2, 3, 0, 3, 1, 3, 2), []int{1, 0, 2}, nil},
+			sample.Edges(0, 2, 1, 0, 1, 2, 3, 0, 3, 1, 3, 2), []int{1, 0, 2}, nil},
 		{"reads of two, the other way, by RC", "begin s, write s x 1, ok s, begin t, write t x 2, write t y 2, ok t, begin u, read u x 1, read u y 2, ok u", api.RC, []int{0, 1},
-			edges(0, 2, 1, 2, 3, 0, 3, 1, 3, 2), []int{0, 1, 2}, nil},
+			sample.Edges(0, 2, 1, 2, 3, 0, 3, 1, 3, 2), []int{0, 1, 2}, nil},
 		{"reads of two, the other way, by CC", "begin s, write s x 1, ok s, begin t, write t x 2, write t y 2, ok t, begin u, read u x 1, read u y 2, ok u", api.CC, []int{0, 1},
-			edges(0, 2, 1, 0, 1, 2, 3, 0, 3, 1, 3, 2), []int{1, 0, 2}, nil},
-		{"a bad read counts nothing", "begin s, write s x 1, read s x 2, ok s", api.CC, nil, edges(1, 0), []int{0}, nil},
+			sample.Edges(0, 2, 1, 0, 1, 2, 3, 0, 3, 1, 3, 2), []int{1, 0, 2}, nil},
+		{"a bad read counts nothing", "begin s, write s x 1, read s x 2, ok s", api.CC, nil, sample.Edges(1, 0), []int{0}, nil},
 	} {
 		h := sample.Of(c.text)
 		if got, e := satur.Edges(c.level, h, c.m); !slices.Equal(got, c.edges) || e != api.OK {
@@ -91,23 +82,6 @@ func TestWrong(t *testing.T) {
 	}
 }
 
-// orders tells all orders of a few transactions, the least one first.
-func orders(l []int) [][]int {
-	all := [][]int{{}}
-	for range l {
-		var more [][]int
-		for _, o := range all {
-			for _, t := range l {
-				if !slices.Contains(o, t) {
-					more = append(more, append(slices.Clone(o), t))
-				}
-			}
-		}
-		all = more
-	}
-	return all
-}
-
 // has tells whether an order has all edges, the beginning's node being ahead of all.
 func has(o []int, start int, l []api.Edge) bool {
 	o = append([]int{start}, o...)
@@ -125,7 +99,7 @@ func TestTheLevelHoldsByTheOrdersThatHaveAll(t *testing.T) {
 			for _, level := range []int{api.RC, api.CC} {
 				all, _ := satur.Edges(level, h, m)
 				var right [][]int
-				for _, o := range orders(committed) {
+				for _, o := range sample.Orders(committed) {
 					is := has(o, len(h.L), all)
 					if is {
 						right = append(right, o)

@@ -6,17 +6,9 @@ import (
 
 	"deemster/api"
 	"deemster/part"
+	"deemster/sample"
 	"deemster/topo"
 )
-
-// edges tells the edges from each first to each second of the numbers.
-func edges(l ...int) []api.Edge {
-	var all []api.Edge
-	for i := 0; i+1 < len(l); i += 2 {
-		all = append(all, api.Edge{A: l[i], B: l[i+1]})
-	}
-	return all
-}
 
 func TestLeast(t *testing.T) {
 	for _, c := range []struct {
@@ -27,14 +19,14 @@ func TestLeast(t *testing.T) {
 	}{
 		{0, nil, nil, api.OK},
 		{3, nil, []int{0, 1, 2}, api.OK},
-		{3, edges(2, 0), []int{1, 2, 0}, api.OK},
-		{4, edges(3, 0, 3, 0, 0, 2), []int{1, 3, 0, 2}, api.OK},
-		{5, edges(4, 1, 1, 0), []int{2, 3, 4, 1, 0}, api.OK},
-		{1, edges(0, 0), nil, api.ErrNone},
-		{3, edges(1, 2, 2, 1), nil, api.ErrNone},
+		{3, sample.Edges(2, 0), []int{1, 2, 0}, api.OK},
+		{4, sample.Edges(3, 0, 3, 0, 0, 2), []int{1, 3, 0, 2}, api.OK},
+		{5, sample.Edges(4, 1, 1, 0), []int{2, 3, 4, 1, 0}, api.OK},
+		{1, sample.Edges(0, 0), nil, api.ErrNone},
+		{3, sample.Edges(1, 2, 2, 1), nil, api.ErrNone},
 		{-1, nil, nil, api.ErrArg},
 		{api.MaxNodes + 1, nil, nil, api.ErrArg},
-		{2, edges(0, 0, 0, 2), nil, api.ErrArg},
+		{2, sample.Edges(0, 0, 0, 2), nil, api.ErrArg},
 	} {
 		if got, e := topo.Least(c.n, c.l...); !slices.Equal(got, c.want) || e != c.e {
 			t.Errorf("Least(%d, %v): %v %v", c.n, c.l, got, e)
@@ -50,17 +42,17 @@ func TestIs(t *testing.T) {
 	}{
 		{nil, nil, true},
 		{[]int{0}, nil, true},
-		{[]int{1, 2, 0}, edges(2, 0), true},
-		{[]int{2, 1, 0}, edges(2, 0, 2, 0, 1, 0), true},
-		{[]int{0, 1, 2}, edges(2, 0), false},
-		{[]int{0}, edges(0, 0), false},
+		{[]int{1, 2, 0}, sample.Edges(2, 0), true},
+		{[]int{2, 1, 0}, sample.Edges(2, 0, 2, 0, 1, 0), true},
+		{[]int{0, 1, 2}, sample.Edges(2, 0), false},
+		{[]int{0}, sample.Edges(0, 0), false},
 		{[]int{0, 0}, nil, false},
 		{[]int{0, 2}, nil, false},
 		{[]int{0, -1}, nil, false},
 		{[]int{1}, nil, false},
-		{[]int{0, 1}, edges(0, 2), false},
-		{[]int{0, 1}, edges(-1, 0), false},
-		{nil, edges(0, 0), false},
+		{[]int{0, 1}, sample.Edges(0, 2), false},
+		{[]int{0, 1}, sample.Edges(-1, 0), false},
+		{nil, sample.Edges(0, 0), false},
 		{[]int{0, 1 << 62}, nil, false},
 		{make([]int, api.MaxNodes+1), nil, false},
 	} {
@@ -78,7 +70,7 @@ func TestIs(t *testing.T) {
 }
 
 func TestCount(t *testing.T) {
-	line := edges(0, 1, 1, 2, 2, 3, 3, 4, 4, 5, 5, 6, 6, 7, 7, 8, 8, 9, 9, 10, 10, 11)
+	line := sample.Edges(0, 1, 1, 2, 2, 3, 3, 4, 4, 5, 5, 6, 6, 7, 7, 8, 8, 9, 9, 10, 10, 11)
 	for _, c := range []struct {
 		n    int
 		l    []api.Edge
@@ -86,17 +78,17 @@ func TestCount(t *testing.T) {
 		e    api.Errno
 	}{
 		{0, nil, 1, api.OK},
-		{3, edges(2, 0), 3, api.OK},
+		{3, sample.Edges(2, 0), 3, api.OK},
 		{4, nil, 24, api.OK},
 		{9, nil, 362880, api.OK},
 		{10, nil, 1_000_000, api.OK},
 		{12, nil, 1_000_000, api.OK},
 		{12, line, 1, api.OK},
 		{12, line[1:], 12, api.OK},
-		{12, append(edges(11, 0), line...), 0, api.OK},
-		{2, edges(1, 1), 0, api.OK},
+		{12, append(sample.Edges(11, 0), line...), 0, api.OK},
+		{2, sample.Edges(1, 1), 0, api.OK},
 		{13, nil, 0, api.ErrNone},
-		{13, edges(0, 13), 0, api.ErrArg},
+		{13, sample.Edges(0, 13), 0, api.ErrArg},
 		{-1, nil, 0, api.ErrArg},
 		{api.MaxNodes + 1, nil, 0, api.ErrArg},
 		{api.MaxNodes, nil, 0, api.ErrNone},
@@ -107,21 +99,13 @@ func TestCount(t *testing.T) {
 	}
 }
 
-// all tells the lists that have each of n nodes once, the least one first.
-func all(n int) [][]int {
-	lists := [][]int{{}}
-	for range n {
-		var more [][]int
-		for _, l := range lists {
-			for v := range n {
-				if !slices.Contains(l, v) {
-					more = append(more, append(slices.Clone(l), v))
-				}
-			}
-		}
-		lists = more
+// numbers tells those from 0 to n - 1.
+func numbers(n int) []int {
+	var l []int
+	for i := range n {
+		l = append(l, i)
 	}
-	return lists
+	return l
 }
 
 func TestAgainstAllLists(t *testing.T) {
@@ -134,7 +118,7 @@ func TestAgainstAllLists(t *testing.T) {
 			}
 		}
 		var orders [][]int
-		for _, o := range all(n) {
+		for _, o := range sample.Orders(numbers(n)) {
 			fits := !slices.ContainsFunc(l, func(x api.Edge) bool { return slices.Index(o, x.A) >= slices.Index(o, x.B) })
 			if topo.Is(o, l...) != fits {
 				t.Fatalf("%v: Is of %v: %v", l, o, !fits)
